@@ -132,7 +132,7 @@ func SizeOf(z complex128) (float64, int64) {
 	if !IsFinite(z) {
 		return 0, ErrInvalid
 	}
-	size := math.Abs(real(z)) + math.Abs(imag(z))
+	size := sizeWide(z)
 	if !isFiniteFloat(size) {
 		return 0, ErrLimit
 	}
@@ -248,6 +248,10 @@ func productWide(a complex128, b complex128) complex128 {
 	re := float64(real(a)*real(b)) - float64(imag(a)*imag(b))
 	im := float64(real(a)*imag(b)) + float64(imag(a)*real(b))
 	return complex(re, im)
+}
+
+func sizeWide(z complex128) float64 {
+	return math.Abs(real(z)) + math.Abs(imag(z))
 }
 
 func limitWide(z complex128) (complex128, int64) {
