@@ -272,12 +272,20 @@ func checkList(list []complex128) int64 {
 	if len(list) > maxNumbers {
 		return ErrRange
 	}
-	for _, z := range list {
-		if !IsFinite(z) {
-			return ErrInvalid
-		}
+	if !areFinite(list) {
+		return ErrInvalid
 	}
 	return ErrNone
+}
+
+// areFinite reports whether all numbers of a list of either width are finite.
+func areFinite[C coefficient](list []C) bool {
+	for _, z := range list {
+		if !IsFinite(complex128(z)) {
+			return false
+		}
+	}
+	return true
 }
 
 func isFiniteFloat(x float64) bool {
