@@ -182,13 +182,19 @@ func checkDeflationRoots(t *testing.T, p []complex128, want []complex128, wantCo
 	checkCoefficients(t, fmt.Sprintf("RootsByDeflation(%v)", p), roots, code, want, wantCode)
 }
 
-// manyRoots gives a polynomial of small whole roots, some of which are met more than once.
-func manyRoots(r *rand.Rand, degree int) []complex128 {
+// wholeRoots gives a polynomial of small whole roots, some of which may be met more than once, and
+// these.
+func wholeRoots(r *rand.Rand, degree int) ([]complex128, []complex128) {
 	roots := differentRoots(r, degree)
 	for range r.IntN(degree + 1) {
 		roots[r.IntN(degree)] = roots[r.IntN(degree)]
 	}
 	p, _ := rootsByParts(roots)
+	return p, roots
+}
+
+func manyRoots(r *rand.Rand, degree int) []complex128 {
+	p, _ := wholeRoots(r, degree)
 	return p
 }
 
