@@ -133,32 +133,37 @@ func radiusByParts(t *testing.T, p, list []complex128, i int) binary {
 
 // groupsByWays are the groups as classes of indices between which there is a way.
 func groupsByWays(list []impl.Disc) [][]int64 {
-	ways := make([][]bool, len(list))
-	for i, d := range list {
-		for _, e := range list {
-			ways[i] = append(ways[i], areTouching(d, e))
+	return classesByWays(len(list), func(i, k int) bool { return areTouching(list[i], list[k]) })
+}
+
+// classesByWays are the largest sets of indices with ways between them over such that are joined.
+func classesByWays(count int, areJoined func(i, k int) bool) [][]int64 {
+	ways := make([][]bool, count)
+	for i := range count {
+		for k := range count {
+			ways[i] = append(ways[i], i == k || areJoined(i, k))
 		}
 	}
-	for over := range list {
-		for i := range list {
-			for k := range list {
+	for over := range count {
+		for i := range count {
+			for k := range count {
 				ways[i][k] = ways[i][k] || ways[i][over] && ways[over][k]
 			}
 		}
 	}
-	var groups [][]int64
-	for i := range list {
-		var group []int64
-		for k := range list {
+	var classes [][]int64
+	for i := range count {
+		var class []int64
+		for k := range count {
 			if ways[i][k] {
-				group = append(group, int64(k))
+				class = append(class, int64(k))
 			}
 		}
-		if group[0] == int64(i) {
-			groups = append(groups, group)
+		if class[0] == int64(i) {
+			classes = append(classes, class)
 		}
 	}
-	return groups
+	return classes
 }
 
 func hullByParts(list []impl.Disc, group []int64) impl.Disc {
